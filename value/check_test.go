@@ -22,7 +22,7 @@ func TestErrorNumbers(t *testing.T) {
 
 // P2.1
 func TestCheckOfEachKind(t *testing.T) {
-	for kind, v := range sample() {
+	for kind, v := range ofEachKind() {
 		if v.Kind != kind {
 			t.Fatalf("the sample's value in place %d has the kind %d", kind, v.Kind)
 		}
@@ -148,7 +148,7 @@ func fieldsOf(kind int) has {
 
 // P2.1: one field too many, each of them, on a value that may be and on one that has another fault too.
 func TestCheckOfExtraFields(t *testing.T) {
-	for kind, good := range sample() {
+	for kind, good := range ofEachKind() {
 		bad := api.Value{Kind: kind}
 		switch fields := fieldsOf(kind); {
 		case fields.num:
@@ -197,7 +197,7 @@ func wantExtra(t *testing.T, v api.Value) {
 
 // P2.1, R3: an empty list is as good as none, whatever room is behind it.
 func TestCheckOfEmptyLists(t *testing.T) {
-	for kind, v := range sample() {
+	for kind, v := range ofEachKind() {
 		if !fieldsOf(kind).list {
 			v.List = []api.Value{}
 			wantCheck(t, v, api.OK)
@@ -264,7 +264,7 @@ func TestCheckOfKeysTwice(t *testing.T) {
 	wantCheck(t, pairs(num(api.Double, notANumber), v, num(api.Double, notANumber+1), v), api.OK)
 	wantCheck(t, pairs(list(v), v, list(v), v), api.ErrMap)
 	wantCheck(t, pairs(list(v), v, list(v, v), v), api.OK)
-	wantCheck(t, pairs(list(), v, parts(api.List, []api.Value{}...), v), api.ErrMap)
+	wantCheck(t, pairs(list(), v, list([]api.Value{}...), v), api.ErrMap)
 	wantCheck(t, pairs(array(api.Uint), v, array(api.Int), v), api.OK)
 	wantCheck(t, pairs(array(api.Uint), v, array(api.Uint), v), api.ErrMap)
 	wantCheck(t, pairs(api.Value{}, v, api.Value{}, v), api.ErrMap)
@@ -278,14 +278,14 @@ func TestCheckOfArrays(t *testing.T) {
 			want = api.ErrArray
 		}
 		wantCheck(t, array(elem), want)
-		for kind, v := range sample() {
+		for kind, v := range ofEachKind() {
 			want := api.OK
 			if elem < 1 || elem > 23 || kind != elem {
 				want = api.ErrArray
 			}
 			wantCheck(t, array(elem, v), want)
 			if elem >= 0 && elem <= 24 {
-				wantCheck(t, array(elem, sample()[elem], sample()[elem], v), want)
+				wantCheck(t, array(elem, ofEachKind()[elem], ofEachKind()[elem], v), want)
 			}
 		}
 	}

@@ -32,7 +32,7 @@ func TestFind(t *testing.T) {
 		{pairs(list(k), v), list(k), v, true}, {pairs(list(k), v), list(k, k), zero, false}, {pairs(list(), v), api.Value{Kind: api.List, List: []api.Value{}}, v, true},
 		{pairs(num(api.Float, 0), v), num(api.Float, 1<<31), zero, false}, {pairs(num(-7, 3), num(99, 1)), num(-7, 3), num(99, 1), true},
 		{api.Value{Kind: api.Map, Num: 5, Elem: 8, Text: "x", List: []api.Value{k, v}}, k, v, true},
-		{list(k, v), k, zero, false}, {described(k, v), k, zero, false}, {array(api.Symbol, k, k), k, zero, false}, {parts(-1, k, v), k, zero, false}, {parts(api.Map+256, k, v), k, zero, false}, {zero, zero, zero, false},
+		{list(k, v), k, zero, false}, {described(k, v), k, zero, false}, {array(api.Symbol, k, k), k, zero, false}, {api.Value{Kind: -1, List: []api.Value{k, v}}, k, zero, false}, {api.Value{Kind: api.Map + 256, List: []api.Value{k, v}}, k, zero, false}, {zero, zero, zero, false},
 		{manyPairs(1024), num(api.Uint, 1023), num(api.Uint, 5), true}, {manyPairs(3000), num(api.Uint, 2999), num(api.Uint, 5), true}, {manyPairs(1024), num(api.Uint, 1025), zero, false},
 	} {
 		wantFind(t, c.m, c.key, c.want, c.there)
@@ -80,7 +80,7 @@ func TestAllOfManyValues(t *testing.T) {
 		v := anyValue(r, 4)
 		wantTold(t, value.All(v), through(v))
 	}
-	for _, v := range append(sample(), num(-1, 2), within(100, num(25, 7)), pairs(num(1, 2)), described()) {
+	for _, v := range append(ofEachKind(), num(-1, 2), within(100, num(25, 7)), pairs(num(1, 2)), described()) {
 		wantTold(t, value.All(v), through(v))
 	}
 }

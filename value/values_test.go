@@ -1,50 +1,24 @@
 package value_test
 
 import (
-	"fmt"
 	"math/rand"
-	"strings"
 	"testing"
 
 	"longshore/api"
+	"longshore/sample"
 	"longshore/value"
 )
 
-func num(kind int, n uint64) api.Value { return api.Value{Kind: kind, Num: n} }
+var (
+	num, text                = sample.Num, sample.Text
+	list, pairs, array       = sample.List, sample.Pairs, sample.Array
+	described, within        = sample.Described, sample.Within
+	written, roomy, scribble = sample.Written, sample.Roomy, sample.Scribble
+	writtenWithRoom          = sample.WithRoom
+)
 
-func text(kind int, s string) api.Value { return api.Value{Kind: kind, Text: s} }
-
-func parts(kind int, l ...api.Value) api.Value { return api.Value{Kind: kind, List: l} }
-
-func list(l ...api.Value) api.Value { return parts(api.List, l...) }
-
-func pairs(l ...api.Value) api.Value { return parts(api.Map, l...) }
-
-func described(l ...api.Value) api.Value { return parts(api.Described, l...) }
-
-func array(elem int, l ...api.Value) api.Value {
-	return api.Value{Kind: api.Array, Elem: elem, List: l}
-}
-
-// within lays v into so many lists, one in the other.
-func within(lists int, v api.Value) api.Value {
-	for range lists {
-		v = list(v)
-	}
-	return v
-}
-
-// written is a value as text, in which two values are alike just where they are the same.
-func written(v api.Value) string {
-	var inner []string
-	for _, part := range v.List {
-		inner = append(inner, written(part))
-	}
-	return fmt.Sprintf("{%d %d %q %d [%s]}", v.Kind, v.Num, v.Text, v.Elem, strings.Join(inner, " "))
-}
-
-// sample has a value that may be of each kind, with its fields not zero where it has them.
-func sample() []api.Value {
+// ofEachKind has a value that may be of each kind, with its fields not zero where it has them.
+func ofEachKind() []api.Value {
 	fixed := "0123456789abcdef"
 	return []api.Value{
 		{}, num(api.Bool, 1), num(api.Ubyte, 200), num(api.Ushort, 60000), num(api.Uint, 1<<31), num(api.Ulong, 1<<63),
@@ -74,7 +48,7 @@ func likely(r *rand.Rand, depth int) api.Value {
 	if r.Intn(40) == 0 {
 		return anyValue(r, 1)
 	}
-	simple := sample()
+	simple := ofEachKind()
 	if depth == 0 || r.Intn(3) == 0 {
 		v := simple[r.Intn(api.List)]
 		if r.Intn(6) == 0 {
@@ -105,36 +79,6 @@ func manyValues(r *rand.Rand, n int, one func() api.Value) []api.Value {
 		return nil
 	}
 	return l
-}
-
-// roomy is v, each of its lists (an empty one too) with room to spare in which a mark stands.
-func roomy(v api.Value) api.Value {
-	l := make([]api.Value, 0, len(v.List)+2)
-	for _, part := range v.List {
-		l = append(l, roomy(part))
-	}
-	spare := l[len(l):cap(l)]
-	spare[0], spare[1] = text(api.String, "mark"), text(api.String, "mark")
-	v.List = l
-	return v
-}
-
-// scribble overwrites all of a value's lists, with the room behind them.
-func scribble(v api.Value) {
-	l := v.List[:cap(v.List)]
-	for i := range l {
-		scribble(l[i])
-		l[i] = text(api.Symbol, "scribbled")
-	}
-}
-
-// writtenWithRoom is a value as text with what stands in the room behind its lists.
-func writtenWithRoom(v api.Value) string {
-	var inner []string
-	for _, part := range v.List[:cap(v.List)] {
-		inner = append(inner, writtenWithRoom(part))
-	}
-	return fmt.Sprintf("{%d %d %q %d %d [%s]}", v.Kind, v.Num, v.Text, v.Elem, len(v.List), strings.Join(inner, " "))
 }
 
 func wantSame(t *testing.T, what string, got, want api.Value) {
