@@ -317,7 +317,7 @@ func TestDecodeOfAnyBytes(t *testing.T) {
 	r, simple := rand.New(rand.NewSource(33)), edges()
 	var seen [100]int
 	for range 60000 {
-		b := anyForm(r, mayBe(r, simple, r.Intn(4)))
+		b := anyForm(r, mayBe(r.Intn, simple, r.Intn(4)))
 		if len(b) > 3000 {
 			continue
 		}
@@ -398,7 +398,7 @@ func TestShortest(t *testing.T) {
 	}
 	r, simple := rand.New(rand.NewSource(34)), edges()
 	for range 3000 {
-		v := mayBe(r, simple, r.Intn(4))
+		v := mayBe(r.Intn, simple, r.Intn(4))
 		b := anyForm(r, v)
 		if got, want := codec.Shortest(b), bytes.Equal(b, shortestForm(v)); got != want {
 			t.Errorf("Shortest(%s): %t, want %t", brief(b), got, want)
@@ -410,7 +410,7 @@ func TestShortest(t *testing.T) {
 func TestDecodeOfWhatEncodeWrote(t *testing.T) {
 	r, simple := rand.New(rand.NewSource(35)), edges()
 	for i := range 3000 {
-		v := mayBe(r, simple, r.Intn(5))
+		v := mayBe(r.Intn, simple, r.Intn(5))
 		if i < len(simple) {
 			v = simple[i]
 		}
@@ -433,7 +433,7 @@ func TestDecodeOfWhatEncodeWrote(t *testing.T) {
 func TestDecodeOfBeginnings(t *testing.T) {
 	r, simple := rand.New(rand.NewSource(36)), edges()
 	for range 400 {
-		v := mayBe(r, simple, r.Intn(4))
+		v := mayBe(r.Intn, simple, r.Intn(4))
 		b, _ := codec.Encode(v)
 		for cut := range b {
 			if cut > 400 && r.Intn(50) > 0 {
@@ -452,7 +452,7 @@ func TestWhatDecodeTakes(t *testing.T) {
 	r, simple := rand.New(rand.NewSource(37)), edges()
 	taken := 0
 	for i := range 20000 {
-		b := anyForm(r, mayBe(r, simple, r.Intn(4)))
+		b := anyForm(r, mayBe(r.Intn, simple, r.Intn(4)))
 		if i%2 == 0 {
 			b = spoil(r, b)
 		}

@@ -158,7 +158,7 @@ func TestEncodeOfTheDeepest(t *testing.T) {
 func TestEncodeIsTheShortestForm(t *testing.T) {
 	r, simple := rand.New(rand.NewSource(31)), edges()
 	for range 4000 {
-		v := mayBe(r, simple, r.Intn(5))
+		v := mayBe(r.Intn, simple, r.Intn(5))
 		if value.Check(v) != api.OK {
 			t.Fatalf("no value that may be: %s", written(v))
 		}
@@ -181,7 +181,7 @@ func TestSameBytesOfSameValues(t *testing.T) {
 	r := rand.New(rand.NewSource(32))
 	var all []api.Value
 	for range 600 {
-		all = append(all, mayBe(r, edges()[:60], r.Intn(3)))
+		all = append(all, mayBe(r.Intn, edges()[:60], r.Intn(3)))
 	}
 	all = append(all, edges()...)
 	for kind := api.Bool; kind <= api.Array; kind++ {

@@ -2,7 +2,6 @@ package codec_test
 
 import (
 	"fmt"
-	"math/rand"
 	"strconv"
 	"strings"
 	"testing"
@@ -10,7 +9,6 @@ import (
 	"longshore/api"
 	"longshore/codec"
 	"longshore/sample"
-	"longshore/value"
 )
 
 var (
@@ -19,16 +17,8 @@ var (
 	described, many, within = sample.Described, sample.Many, sample.Within
 	written, same           = sample.Written, sample.Same
 	roomy, scribble         = sample.Roomy, sample.Scribble
+	edges, keyed, mayBe     = sample.Edges, sample.Keyed, sample.MayBe
 )
-
-// keyed is n pairs: numbers of two bytes, and Null behind each.
-func keyed(n int) []api.Value {
-	var l []api.Value
-	for i := range n {
-		l = append(l, num(api.Ushort, uint64(i)), api.Value{})
-	}
-	return l
-}
 
 // hex is bytes out of digits, with blanks between; "*n" behind a byte lays it n times.
 func hex(s string) []byte {
@@ -57,73 +47,6 @@ func brief(b []byte) string {
 		return fmt.Sprintf("% x .. (%d bytes)", b[:60], len(b))
 	}
 	return fmt.Sprintf("% x", b)
-}
-
-// edges are the numbers, by kinds, at which a form or a kind ends.
-func edges() []api.Value {
-	var l []api.Value
-	for _, n := range []int64{0, 1, -1, 2, 127, 128, 129, -127, -128, -129, 254, 255, 256, 257, 32767, -32768, 65535, 65536, 1<<31 - 1, -1 << 31, 1<<32 - 1, 1 << 32, 1<<63 - 1, -1 << 63, 0xd7ff, 0xe000, 0x10ffff} {
-		for kind := api.Bool; kind <= api.Time; kind++ {
-			if v := signed(kind, n); value.Check(v) == api.OK {
-				l = append(l, v)
-			}
-		}
-	}
-	for _, n := range []int{0, 1, 254, 255, 256, 257} {
-		for kind := api.Binary; kind <= api.Symbol; kind++ {
-			l = append(l, text(kind, strings.Repeat("a", n)))
-		}
-	}
-	fixed := "\x00\x01\x7f\x80\xff56789abcdef"
-	return append(l, api.Value{}, text(api.Dec128, fixed), text(api.Uuid, fixed), text(api.Binary, "\xff\x00"), text(api.String, "\u20ac\U0010ffff"))
-}
-
-// mayBe is any value that may be, of few levels.
-func mayBe(r *rand.Rand, simple []api.Value, depth int) api.Value {
-	if depth == 0 || r.Intn(3) == 0 {
-		return simple[r.Intn(len(simple))]
-	}
-	inner := func() api.Value { return mayBe(r, simple, depth-1) }
-	switch r.Intn(4) {
-	case 0:
-		return list(lots(r, depth, inner)...)
-	case 1:
-		var l []api.Value
-		for i, key := range lots(r, depth, inner) {
-			l = append(l, list(num(api.Uint, uint64(i)), key), inner())
-		}
-		return pairs(l...)
-	case 2:
-		return described(inner(), inner())
-	}
-	return arrayOf(r, simple, depth)
-}
-
-func arrayOf(r *rand.Rand, simple []api.Value, depth int) api.Value {
-	one := mayBe(r, simple, depth-1)
-	if one.Kind == api.Null || one.Kind == api.Described {
-		return array(api.Uint)
-	}
-	l := []api.Value{one}
-	for range r.Intn(40) {
-		if v := mayBe(r, simple, depth-1); v.Kind == one.Kind {
-			l = append(l, v)
-		}
-	}
-	return array(one.Kind, l[r.Intn(2):]...)
-}
-
-// lots is some values; where they are simple ones, now and then so many that a count takes more than a byte.
-func lots(r *rand.Rand, depth int, one func() api.Value) []api.Value {
-	var l []api.Value
-	n := r.Intn(5)
-	if depth == 1 && r.Intn(20) == 0 {
-		n = 200 + r.Intn(100)
-	}
-	for range n {
-		l = append(l, one())
-	}
-	return l
 }
 
 func wantEncode(t *testing.T, v api.Value, want []byte, wantErr api.Errno) {

@@ -89,3 +89,20 @@ func Scribble(v api.Value) {
 		l[i] = Text(api.Symbol, "scribbled")
 	}
 }
+
+// Apart tells whether the parts of what read answers share no list with one another: each stays when all others are scribbled over.
+func Apart(read func() api.Value) bool {
+	for i := range read().List {
+		l := read().List
+		before := Written(l[i])
+		for j := range l {
+			if j != i {
+				Scribble(l[j])
+			}
+		}
+		if Written(l[i]) != before {
+			return false
+		}
+	}
+	return true
+}

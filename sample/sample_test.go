@@ -1,10 +1,12 @@
 package sample_test
 
 import (
+	"math/rand"
 	"testing"
 
 	"longshore/api"
 	"longshore/sample"
+	"longshore/value"
 )
 
 // Each of these differs from each other one in one field.
@@ -51,5 +53,35 @@ func TestScribble(t *testing.T) {
 				t.Errorf("left as it was: %s", sample.Written(part))
 			}
 		}
+	}
+}
+
+func TestApart(t *testing.T) {
+	one := func() api.Value { return sample.List(sample.Num(api.Uint, 1)) }
+	apart := func() api.Value { return sample.List(one(), one(), sample.Within(2, one())) }
+	if !sample.Apart(apart) {
+		t.Error("parts without a list in common are not told apart")
+	}
+	shared := func() api.Value { l := one(); return sample.List(one(), l, sample.Within(2, l)) }
+	if sample.Apart(shared) {
+		t.Error("a list that two parts have is not seen")
+	}
+}
+
+func TestWhatMayBe(t *testing.T) {
+	kinds := map[int]int{}
+	r := rand.New(rand.NewSource(1))
+	for range 2000 {
+		v := sample.MayBe(r.Intn, sample.Edges(), 3)
+		if e := value.Check(v); e != api.OK {
+			t.Fatalf("%s: %d", sample.Written(v), e)
+		}
+		kinds[v.Kind]++
+	}
+	if len(kinds) != api.Described+1 {
+		t.Errorf("of so many values the kinds are %v", kinds)
+	}
+	if v := sample.Pairs(sample.Keyed(1024)...); value.Check(v) != api.OK || len(v.List) != 2048 {
+		t.Errorf("Keyed(1024): %d parts", len(v.List))
 	}
 }
