@@ -2,6 +2,7 @@ package carve
 
 import (
 	"longshore/api"
+	"longshore/owned"
 	"longshore/terms"
 )
 
@@ -93,7 +94,7 @@ func (d *delivery) take(p api.Perform, payload []byte, most int) api.Errno {
 	d.Data = append(d.Data, payload...)
 	d.Settled = d.Settled || p.HasSettled && p.Settled
 	if !terms.Same(p.State, api.State{}) {
-		d.State = ownedState(p.State)
+		d.State = owned.State(p.State)
 	}
 	return api.OK
 }
