@@ -6,9 +6,15 @@ import (
 	"longshore/value"
 )
 
+// Fault is a fault in memory of its own.
+func Fault(f api.Fault) api.Fault {
+	f.Info = Value(f.Info)
+	return f
+}
+
 // State is a state in memory of its own.
 func State(s api.State) api.State {
-	s.Fault.Info = Value(s.Fault.Info)
+	s.Fault = Fault(s.Fault)
 	s.Ann = Value(s.Ann)
 	s.Inner = states(s.Inner)
 	return s

@@ -83,6 +83,20 @@ func TestSharedLists(t *testing.T) {
 	}
 }
 
+// DOC.md's R2, of a fault: its Info is another list.
+func TestFault(t *testing.T) {
+	f := api.Fault{Cond: "x", Text: "why", Info: sample.Roomy(sample.Pairs(sample.Text(api.Symbol, "k"), sample.List(sample.Num(api.Uint, 7))))}
+	before := sample.WithRoom(f.Info)
+	c := owned.Fault(f)
+	if c.Cond != "x" || c.Text != "why" || !sample.Same(c.Info, f.Info) || sample.WithRoom(f.Info) != before {
+		t.Errorf("%s, %s, %s", c.Cond, c.Text, sample.Written(c.Info))
+	}
+	sample.Scribble(c.Info)
+	if sample.WithRoom(f.Info) != before {
+		t.Errorf("scribbled over the copy: %s, before: %s", sample.WithRoom(f.Info), before)
+	}
+}
+
 func TestValue(t *testing.T) {
 	for _, v := range append(sample.Edges(), sample.Pairs(sample.Keyed(5)...), sample.Within(5, sample.Described(api.Value{}, api.Value{})), sample.Array(api.Uint)) {
 		v = sample.Roomy(v)
