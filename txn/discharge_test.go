@@ -214,6 +214,9 @@ func TestGraves(t *testing.T) {
 	for _, name := range []string{"", "none", "q.d"} {
 		queues(3, name, "").want(t, "no such queue", []part{dead("q", 1), dead("q", 2), dead("r", 5)}, []api.Op{remove("q", 1), remove("q", 2), remove("r", 5), put("d", as(durable(5, 4), 6, 0))})
 	}
+	if _, e := queues(1, "", "").base(t).s.Apply([]api.Op{declare(dying(lasting("self", 3), "self", 1))}); e != api.ErrQueue {
+		t.Errorf("a queue that is its own dead ones' queue: %d", e)
+	}
 	queues(1, "d", "").want(t, "full", []part{dead("q", 1)}, []api.Op{remove("q", 1)})
 	queues(2, "d", "").want(t, "the last one", []part{dead("q", 1)}, []api.Op{remove("q", 1), put("d", as(durable(1, 4), 6, 0))})
 	queues(2, "d", "").want(t, "full by another dead one", []part{dead("q", 2), dead("q", 1)}, []api.Op{remove("q", 2), remove("q", 1), put("d", as(durable(2, 4), 6, 0))})
